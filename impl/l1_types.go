@@ -158,7 +158,15 @@ func countPower(base int, exponent int) int {
 // readType returns the type that a text is, and true.
 func readType(s string) (typeNode, bool) {
 	p, ok := readPhrase(s)
-	if !ok || p.atoms() > AtomsMax {
+	if !ok {
+		return nil, false
+	}
+	return limitedType(p)
+}
+
+// limitedType returns the type that a phrase is, if it does not have too many atoms, and true.
+func limitedType(p phrase) (typeNode, bool) {
+	if p.atoms() > AtomsMax {
 		return nil, false
 	}
 	return typeOfPhrase(p)
