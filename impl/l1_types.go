@@ -221,6 +221,11 @@ func typeText(t typeNode) string {
 	return "(" + t.head() + " " + strings.Join(typeTexts(kids), " ") + ")"
 }
 
+// sameType reports whether two types are equal.
+func sameType(a typeNode, b typeNode) bool {
+	return typeText(a) == typeText(b)
+}
+
 func typeTexts(types []typeNode) []string {
 	var texts []string
 	for _, t := range types {

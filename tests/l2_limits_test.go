@@ -60,12 +60,12 @@ func nested(n int, value string) string {
 	return value
 }
 
-// allBoth returns a computation of choices between some computations.
-func allBoth(list []string) string {
+// allOf returns a computation with all of some computations in a form of two, as both or try.
+func allOf(head string, list []string) string {
 	if len(list) == 1 {
 		return list[0]
 	}
-	return "(both " + allBoth(list[:len(list)/2]) + " " + allBoth(list[len(list)/2:]) + ")"
+	return "(" + head + " " + allOf(head, list[:len(list)/2]) + " " + allOf(head, list[len(list)/2:]) + ")"
 }
 
 // computationOfBytes returns a computation of so many bytes, which are about TextMax, with parentheses within each other at most 98 times.
@@ -73,7 +73,7 @@ func computationOfBytes(n int) string {
 	for last := 1; last <= 93; last += 2 {
 		parts := slices.Repeat([]string{nested(93, "a")}, 14)
 		parts = append(parts, nested(last, "a"))
-		missing := n - len(allBoth(parts))
+		missing := n - len(allOf("both", parts))
 		if missing < 0 || missing > 3*len(parts) {
 			continue
 		}
@@ -82,7 +82,7 @@ func computationOfBytes(n int) string {
 			parts[i] = strings.Replace(parts[i], "a", "a"+strings.Repeat("0", longer), 1)
 			missing -= longer
 		}
-		return allBoth(parts)
+		return allOf("both", parts)
 	}
 	panic("no computation of " + strconv.Itoa(n) + " bytes")
 }
@@ -187,7 +187,7 @@ func manyBound(first, free, splits, gets int) string {
 	for chain := range slices.Chunk(layers, 95) {
 		chains = append(chains, strings.Join(chain, "")+"(return 0)"+strings.Repeat(")", len(chain)))
 	}
-	return allBoth(chains)
+	return allOf("both", chains)
 }
 
 func TestManyCanonicalNames(t *testing.T) {
