@@ -135,6 +135,7 @@ func TestPromise5CountsOfTypes(t *testing.T) {
 }
 
 func TestPromise6PartsOfPairs(t *testing.T) {
+	t.Parallel()
 	for _, w := range countedTypes("*&") {
 		first, second := w.kids[0].count, w.kids[1].count
 		k := 0
@@ -154,6 +155,7 @@ func TestPromise6PartsOfPairs(t *testing.T) {
 }
 
 func TestPromise7OutcomesOfReturns(t *testing.T) {
+	t.Parallel()
 	for _, w := range countedTypes("f") {
 		n := w.kids[0].count
 		for k := range w.count {

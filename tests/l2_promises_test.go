@@ -186,6 +186,7 @@ func wantAlike(t *testing.T, a, b string, want bool) {
 }
 
 func TestPromise17TermsThatAreAlike(t *testing.T) {
+	t.Parallel()
 	small := (termGrammar{[]string{"n0", "x"}, []string{"b"}, []string{"(f b)"}}).upTo(4)
 	for _, m := range small {
 		for _, other := range small {
@@ -214,6 +215,7 @@ func TestPromise17TermsThatAreAlike(t *testing.T) {
 }
 
 func TestPromise18Putting(t *testing.T) {
+	t.Parallel()
 	d := newTermDice(3)
 	values := []*madeTerm{madeAtom("0"), madeAtom("1")}
 	for len(values) < 40 {
@@ -275,6 +277,7 @@ func TestPromise19SizesOfTerms(t *testing.T) {
 }
 
 func TestPromise20UsesOfNames(t *testing.T) {
+	t.Parallel()
 	for _, m := range someTerms() {
 		s, counts := m.text(), map[string]int{}
 		for _, name := range m.uses() {

@@ -367,6 +367,7 @@ func someClosedTerms() []*madeTerm {
 }
 
 func TestOracleGivesTheDocumentsTypes(t *testing.T) {
+	t.Parallel()
 	heads := map[string]int{}
 	for _, s := range typedTerms() {
 		if got := s.standing.typ(); got != s.typ {

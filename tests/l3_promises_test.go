@@ -189,6 +189,7 @@ func TestPromise24TypesBehindPutting(t *testing.T) {
 }
 
 func TestPromise25TypedTerms(t *testing.T) {
+	t.Parallel()
 	typed := 0
 	for _, m := range someClosedTerms() {
 		s, want := m.text(), standing{m, madeEnv{}}.typ() != ""
@@ -263,6 +264,7 @@ func wantNoFault(t *testing.T, s string) {
 }
 
 func TestPromise27Faults(t *testing.T) {
+	t.Parallel()
 	faults := 0
 	for _, m := range someClosedTerms() {
 		s, want := m.text(), standing{m, madeEnv{}}.fault()
@@ -300,7 +302,7 @@ func (m *madeTerm) pure() bool {
 	return !slices.Contains([]string{"get", "put", "fail", "try"}, m.head)
 }
 
-// TestPromise28PureTerms holds what promise 28 says of the parts; what it says of Run is for the tests of chapter 4.
+// TestPromise28PureTerms holds what promise 28 says of the parts; TestPromise28PureRuns holds what it says of Run.
 func TestPromise28PureTerms(t *testing.T) {
 	pure := 0
 	for _, m := range someTerms() {
