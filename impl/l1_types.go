@@ -1,6 +1,9 @@
 package impl
 
-import "strings"
+import (
+	"slices"
+	"strings"
+)
 
 // TextMax is the greatest number of bytes of a term or a type.
 const TextMax = 12000
@@ -299,6 +302,25 @@ func outcomeAt(k int, state int, elements int) int {
 	return k % outcomes(elements)
 }
 
+// returnedBy returns the state behind and the element that an outcome without a failure tells, with so many elements.
+func returnedBy(outcome int, elements int) (int, int) {
+	return (outcome - 1) / elements, (outcome - 1) % elements
+}
+
+// funAt returns the element for an element a, of a function to a type with so many elements.
+func funAt(k int, a int, elements int) int {
+	return k / countPower(elements, a) % elements
+}
+
+// funOf returns the function with a list of elements of a type with so many.
+func funOf(list []int, elements int) int {
+	k := 0
+	for _, c := range slices.Backward(list) {
+		k = k*elements + c
+	}
+	return k
+}
+
 // TypeKind returns value or computation for a type, and "" for other texts.
 func TypeKind(s string) string {
 	t, ok := readType(s)
@@ -360,7 +382,8 @@ func ReturnOutcome(s string, k int, state int) (bool, int, int, bool) {
 	if outcome == 0 {
 		return false, 0, 0, true
 	}
-	return true, (outcome - 1) / counts[0], (outcome - 1) % counts[0], true
+	behind, a := returnedBy(outcome, counts[0])
+	return true, behind, a, true
 }
 
 // FunAt returns the element of C for an element of A, of an element of a type (> A C), and true.
@@ -369,7 +392,7 @@ func FunAt(s string, k int, a int) (int, bool) {
 	if !ok || !isElement(a, counts[0]) {
 		return 0, false
 	}
-	return k / countPower(counts[1], a) % counts[1], true
+	return funAt(k, a, counts[1]), true
 }
 
 // FunOf returns the element of a type (> A C) with a list of elements of C, for each element of A in order, and true.
@@ -379,15 +402,12 @@ func FunOf(s string, list []int) (int, bool) {
 	if !ok || len(list) != counts[0] {
 		return 0, false
 	}
-	k, weight := 0, 1
 	for _, c := range list {
 		if !isElement(c, counts[1]) {
 			return 0, false
 		}
-		k += c * weight
-		weight *= counts[1]
 	}
-	return k, true
+	return funOf(list, counts[1]), true
 }
 
 // TypeThunk returns (u C) for a computation type C, and true.

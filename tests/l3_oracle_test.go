@@ -184,15 +184,25 @@ type typedDice struct {
 	termDice
 	// slips is how seldom a part of another type is made, one out of so many; never if it is 0.
 	slips int
+	// known tells that all types have counts that are known.
+	known bool
 }
 
-func newTypedDice(seed uint64, slips int) typedDice { return typedDice{newTermDice(seed), slips} }
+func newTypedDice(seed uint64, slips int) typedDice {
+	return typedDice{termDice: newTermDice(seed), slips: slips}
+}
 
 func (d typedDice) valueType() string {
+	if d.known {
+		return d.one("b", "b", "b", "(* b b)", "(* b b)", "(u (f b))", "(u (f b))", "(u (f (* b b)))", "(u (> b (f b)))", "(u (& (f b) (f b)))", "(* b (u (f b)))", "(* (u (> b (f b))) b)", "(* (* b b) b)")
+	}
 	return d.one("b", "b", "(* b b)", "(u (f b))", "(u (> b (f b)))", "(* b (u (f b)))", "(* (* b b) b)", "(u (& (f b) (f (* b b))))")
 }
 
 func (d typedDice) computationType() string {
+	if d.known {
+		return d.one("(f b)", "(f b)", "(f b)", "(f (* b b))", "(> b (f b))", "(> b (f b))", "(& (f b) (f b))", "(& (f b) (f (* b b)))", "(& (f (* b b)) (f b))", "(f (u (f b)))", "(f (* b (* b b)))")
+	}
 	return d.one("(f b)", "(f b)", "(f (* b b))", "(f (u (f b)))", "(> b (f b))", "(> (* b b) (f b))", "(> (u (f b)) (f b))", "(& (f b) (f b))", "(& (> b (f b)) (f b))", "(> b (> b (f (* b b))))")
 }
 
@@ -258,30 +268,35 @@ func (d typedDice) computation(e madeEnv, typ string, depth int) *madeTerm {
 		return d.made(e, typ, depth)
 	}
 	value, computation, x, y := d.valueType(), d.computationType(), d.name(), d.name()
+	if d.known {
+		value = d.one("b", "b", "b", "(* b b)", "(u (f b))") // most types of functions from and returns of others have too many elements
+	}
 	deep := depth - 1
 	switch d.IntN(11) {
 	case 0:
-		return madeOf("to", d.computation(e, "(f "+value+")", deep), ":"+x, d.computation(e.with(x, value), typ, deep))
+		if d.takes("(f " + value + ")") {
+			return madeOf("to", d.computation(e, "(f "+value+")", deep), ":"+x, d.computation(e.with(x, value), typ, deep))
+		}
 	case 1:
-		if isType("(u " + typ + ")") {
+		if d.takes("(u " + typ + ")") {
 			return madeOf("force", d.value(e, "(u "+typ+")", deep))
 		}
 	case 2:
-		if isType("(> " + value + " " + typ + ")") {
+		if d.takes("(> " + value + " " + typ + ")") {
 			return madeOf("app", d.computation(e, "(> "+value+" "+typ+")", deep), d.value(e, value, deep))
 		}
 	case 3:
 		return madeOf("if", d.value(e, "b", deep), d.computation(e, typ, deep), d.computation(e, typ, deep))
 	case 4, 5:
-		if other := d.valueType(); x != y && isType("(* "+value+" "+other+")") {
+		if other := d.valueType(); x != y && d.takes("(* "+value+" "+other+")") {
 			return madeOf("split", d.value(e, "(* "+value+" "+other+")", deep), ":"+x, ":"+y, d.computation(e.with(x, value).with(y, other), typ, deep))
 		}
 	case 6:
-		if isType("(& " + typ + " " + computation + ")") {
+		if d.takes("(& " + typ + " " + computation + ")") {
 			return madeOf("fst", d.computation(e, "(& "+typ+" "+computation+")", deep))
 		}
 	case 7:
-		if isType("(& " + computation + " " + typ + ")") {
+		if d.takes("(& " + computation + " " + typ + ")") {
 			return madeOf("snd", d.computation(e, "(& "+computation+" "+typ+")", deep))
 		}
 	case 8:
@@ -296,7 +311,11 @@ func (d typedDice) computation(e madeEnv, typ string, depth int) *madeTerm {
 	return d.made(e, typ, deep)
 }
 
-func isType(s string) bool { return typesByText()[s].text != "" }
+// takes reports whether a text is one of the types that may be made.
+func (d typedDice) takes(s string) bool {
+	w := typesByText()[s]
+	return w.text != "" && !(d.known && w.count == -1)
+}
 
 // made returns a computation of a type with the form that belongs to the type, or a failure.
 func (d typedDice) made(e madeEnv, typ string, depth int) *madeTerm {
