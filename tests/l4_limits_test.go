@@ -15,7 +15,7 @@ func TestNumbersOfTheDocument(t *testing.T) {
 		name      string
 		got, want int
 	}{
-		{"TextMax", impl.TextMax, 12000}, {"AtomsMax", impl.AtomsMax, 12}, {"CountMax", impl.CountMax, 5000}, {"TermMax", impl.TermMax, 1500}, {"EnvMax", impl.EnvMax, 8}, {"FuelMax", impl.FuelMax, 5000}, {"StackMax", impl.StackMax, 300},
+		{"TextMax", impl.TextMax, 12000}, {"AtomsMax", impl.AtomsMax, 12}, {"CountMax", impl.CountMax, 5000}, {"TermMax", impl.TermMax, 1500}, {"EnvMax", impl.EnvMax, 8}, {"FuelMax", impl.FuelMax, 5000}, {"StackMax", impl.StackMax, 300}, {"SourceMax", impl.SourceMax, 150},
 	} {
 		if w.got != w.want {
 			t.Errorf("%s is %d, want %d", w.name, w.got, w.want)
