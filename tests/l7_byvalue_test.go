@@ -94,7 +94,7 @@ func TestEvaluationsByValue(t *testing.T) {
 		// functions as parts of pairs and as results
 		{"(app (fst (pair (lam x b (if x 0 1)) 0)) 0)", 0, sourceEnd{"1", 0, 9}}, {"(app (snd (pair (put 1) (lam x b (get)))) 0)", 0, sourceEnd{"1", 1, 8}}, {"(app (lam p (* (> b b) b) (app (fst p) (snd p))) (pair (lam x b (put x)) 1))", 0, sourceEnd{"1", 1, 12}}, {"(app (app (lam f (> b b) f) (lam x b (put x))) 1)", 0, sourceEnd{"1", 1, 8}},
 	} {
-		wantEnd(t, w.s, w.bit, w.want)
+		byValue.wantEnd(t, w.s, w.bit, w.want)
 		of, ok := impl.ValueOf(w.s)
 		print, behind, _, ran := impl.Run(of, w.bit, impl.FuelMax)
 		if want := w.want.print; !ok || !ran || print != want && print != "(return "+want+")" || behind != w.want.bit {

@@ -184,14 +184,14 @@ func TestLargeTranslations(t *testing.T) {
 		m := madeOf("app", madeOf("lam", ":v7", typ, treeOfParts(uses)), simple)
 		s := m.text()
 		of, ok := impl.ValueOf(s)
-		if want := valueMade(m).text(); !keepsSourceLimits(m) || !ok || of != want {
+		if want := valueTranslator.made(m).text(); !keepsSourceLimits(m) || !ok || of != want {
 			t.Errorf("ValueOf(%s) = %s, %v, want %s", s, of, ok, want)
 		}
 		next := "v" + strconv.Itoa(1+number(last))
 		if !strings.Contains(of, last+" ") || strings.Contains(of, next+" ") || strings.Count(of, " v7 ") != 1 {
 			t.Errorf("ValueOf(%s) = %s, want names up to %s", s, of, last)
 		}
-		wantEnd(t, s, 1, endFrom(m, 1))
+		byValue.wantEnd(t, s, 1, endFrom(m, 1))
 	}
 	m := madeOf("app", madeOf("lam", ":v7", typ, treeOfParts(18)), simple)
 	of, _ := impl.ValueOf(m.text())
@@ -218,7 +218,7 @@ func TestFuelsAtTheirLimit(t *testing.T) {
 			t.Errorf("%s takes %d", s, cost)
 		}
 		for bit := range 2 {
-			wantEnd(t, s, bit, sourceEnd{"0", 0, cost})
+			byValue.wantEnd(t, s, bit, sourceEnd{"0", 0, cost})
 		}
 	}
 	// These take thousands of times more.
@@ -229,11 +229,11 @@ func TestFuelsAtTheirLimit(t *testing.T) {
 			t.Errorf("SourceType(%s) = %s, %v", s, typ, ok)
 		}
 		if strings.Contains(s, "fail") {
-			wantEnd(t, s, 1, sourceEnd{"fail", 0, 3*9 + 3})
+			byValue.wantEnd(t, s, 1, sourceEnd{"fail", 0, 3*9 + 3})
 			continue
 		}
 		for _, fuel := range []int{0, 1, 4999, impl.FuelMax} {
-			wantNoEval(t, s, 0, fuel)
+			byValue.wantNone(t, s, 0, fuel)
 		}
 	}
 }

@@ -137,7 +137,7 @@ func (m *madeTerm) allWithin() []*madeTerm {
 	return all
 }
 
-// A sourceEnd is what an expression comes to by value from a bit, and the fuel that it takes.
+// A sourceEnd is what an expression comes to from a bit, and the fuel that it takes.
 type sourceEnd struct {
 	print     string
 	bit, cost int
@@ -225,9 +225,20 @@ func printOfSource(v *madeTerm) string {
 	return v.atom
 }
 
-// valueTemplates are the value translations of expressions as the document writes them, with their new names in order.
-var valueTemplates = map[string]struct{ names, template string }{
-	"lam":  {"", "(return (thunk (lam x A M)))"},
+// A translator tells a translation of expressions as the document writes it: a template for each head, with its new names in order and T for a type in its text.
+type translator struct {
+	templates map[string]template
+	// typ is the translation of types. What stands in lam and in fail has A for it.
+	typ           func(string) string
+	inLam, inFail string
+}
+
+type template struct{ names, form string }
+
+var valueTranslator = translator{map[string]template{
+	"name": {"", "(return V)"},
+	"bit":  {"", "(return V)"},
+	"lam":  {"", "(return (thunk (lam x T M)))"},
 	"app":  {"v w", "(to M v (to N w (app (force v) w)))"},
 	"if":   {"v", "(to M v (if v N P))"},
 	"pair": {"v w", "(to M v (to N w (return (pair v w))))"},
@@ -235,11 +246,12 @@ var valueTemplates = map[string]struct{ names, template string }{
 	"snd":  {"v w y", "(to M v (split v w y (return y)))"},
 	"get":  {"v", "(get v (return v))"},
 	"put":  {"v", "(to M v (put v (return v)))"},
-	"fail": {"", "(fail F)"},
-}
+	"fail": {"", "(fail T)"},
+}, valueTypeMade, "A", "(f A)"}
 
 // A translation is one that is being made: how many of v0, v1 and so on are taken or left out, and all atoms of the expression.
 type translation struct {
+	translator
 	next  int
 	atoms []string
 }
@@ -254,29 +266,26 @@ func (n *translation) take() string {
 	}
 }
 
-func (n *translation) byValue(m *madeTerm) *madeTerm {
-	if m.atom != "" {
-		return madeFrom("(return V)", standsFor{"V": m.atom})
-	}
-	how, letters := valueTemplates[m.head], standsFor{}
+func (n *translation) made(m *madeTerm) *madeTerm {
+	how, letters := n.templates[m.shownHead()], standsFor{"V": m.atom}
 	for _, letter := range strings.Fields(how.names) {
 		letters[letter] = n.take()
 	}
 	switch m.head {
 	case "lam":
-		letters["x"], letters["A"] = m.parts[0].bound, valueTypeMade(m.parts[1].typ)
+		letters["x"], letters["T"] = m.parts[0].bound, strings.Replace(n.inLam, "A", n.typ(m.parts[1].typ), 1)
 	case "fail":
-		letters["F"] = "(f " + valueTypeMade(m.parts[0].typ) + ")"
+		letters["T"] = strings.Replace(n.inFail, "A", n.typ(m.parts[0].typ), 1)
 	}
 	for i, kid := range m.kidsMade() {
-		letters[[]string{"M", "N", "P"}[i]] = n.byValue(kid)
+		letters[[]string{"M", "N", "P"}[i]] = n.made(kid)
 	}
-	return madeFrom(how.template, letters)
+	return madeFrom(how.form, letters)
 }
 
-// valueMade returns the value translation of an expression, which may be no term.
-func valueMade(m *madeTerm) *madeTerm {
-	return (&translation{atoms: wordsOf(m.text())}).byValue(m)
+// made returns the translation of an expression, which may be no term.
+func (t translator) made(m *madeTerm) *madeTerm {
+	return (&translation{translator: t, atoms: wordsOf(m.text())}).made(m)
 }
 
 // hasLargeType reports whether a type that stands in a translation has too many atoms.

@@ -80,15 +80,50 @@ func wantNoSourceType(t *testing.T, s string) {
 		t.Errorf("%s: SourceType %s, %v, ValueOf %s, %v", quoted(s), typ, typed, of, translated)
 	}
 	for _, fuel := range []int{0, 1, 50, impl.FuelMax} {
-		wantNoEval(t, s, 0, fuel)
-		wantNoEval(t, s, 1, fuel)
+		byValue.wantNone(t, s, 0, fuel)
+		byValue.wantNone(t, s, 1, fuel)
 	}
 }
 
-func wantNoEval(t *testing.T, s string, bit, fuel int) {
+// An evaluation is EvalValue or EvalName.
+type evaluation struct {
+	name string
+	of   func(s string, bit, fuel int) (string, int, bool)
+}
+
+var byValue = evaluation{"EvalValue", impl.EvalValue}
+
+func (e evaluation) wantNone(t *testing.T, s string, bit, fuel int) {
 	t.Helper()
-	if print, behind, ok := impl.EvalValue(s, bit, fuel); ok || print != "" || behind != 0 {
-		t.Errorf("EvalValue(%s, %d, %d) = %s, %d, %v", quoted(s), bit, fuel, print, behind, ok)
+	if print, behind, ok := e.of(s, bit, fuel); ok || print != "" || behind != 0 {
+		t.Errorf("%s(%s, %d, %d) = %s, %d, %v", e.name, quoted(s), bit, fuel, print, behind, ok)
+	}
+}
+
+// wantEnd wants that an expression comes to an end from a bit with just so much fuel, and with more.
+func (e evaluation) wantEnd(t *testing.T, s string, bit int, want sourceEnd) {
+	t.Helper()
+	for _, fuel := range []int{0, 1, want.cost - 1, want.cost, want.cost + 1, impl.FuelMax - 1, impl.FuelMax} {
+		if !want.suffices(fuel) {
+			e.wantNone(t, s, bit, fuel)
+			continue
+		}
+		if print, behind, ok := e.of(s, bit, fuel); !ok || print != want.print || behind != want.bit {
+			t.Errorf("%s(%s, %d, %d) = %s, %d, %v, want %s, %d", e.name, quoted(s), bit, fuel, print, behind, ok, want.print, want.bit)
+		}
+	}
+}
+
+// wantArguments wants that an expression with a type comes to an end for bits and fuels alone.
+func (e evaluation) wantArguments(t *testing.T, s string) {
+	t.Helper()
+	for _, fuel := range noFuels() {
+		e.wantNone(t, s, 0, fuel)
+		e.wantNone(t, s, 1, fuel)
+	}
+	for _, bit := range noBits() {
+		e.wantNone(t, s, bit, impl.FuelMax)
+		e.wantNone(t, s, bit, 1)
 	}
 }
 
@@ -214,35 +249,14 @@ func TestPromise65ValuesAndRuns(t *testing.T) {
 	}
 }
 
-// wantEnd wants that an expression comes to an end from a bit with just so much fuel, and with more.
-func wantEnd(t *testing.T, s string, bit int, want sourceEnd) {
-	t.Helper()
-	for _, fuel := range []int{0, 1, want.cost - 1, want.cost, want.cost + 1, impl.FuelMax - 1, impl.FuelMax} {
-		if !want.suffices(fuel) {
-			wantNoEval(t, s, bit, fuel)
-			continue
-		}
-		if print, behind, ok := impl.EvalValue(s, bit, fuel); !ok || print != want.print || behind != want.bit {
-			t.Errorf("EvalValue(%s, %d, %d) = %s, %d, %v, want %s, %d", quoted(s), bit, fuel, print, behind, ok, want.print, want.bit)
-		}
-	}
-}
-
 func TestPromise66Fuels(t *testing.T) {
 	t.Parallel()
 	for i, w := range typedSources() {
 		for bit, end := range w.ends {
-			wantEnd(t, w.text, bit, end)
+			byValue.wantEnd(t, w.text, bit, end)
 		}
-		if i%10 > 0 {
-			continue
-		}
-		for _, fuel := range noFuels() {
-			wantNoEval(t, w.text, i%2, fuel)
-		}
-		for _, bit := range noBits() {
-			wantNoEval(t, w.text, bit, impl.FuelMax)
-			wantNoEval(t, w.text, bit, w.ends[0].cost)
+		if i%10 == 0 {
+			byValue.wantArguments(t, w.text)
 		}
 	}
 }
@@ -285,7 +299,7 @@ func TestPromise68TranslationsByValue(t *testing.T) {
 	t.Parallel()
 	terms, none, meant := 0, 0, map[string]int{}
 	for _, w := range typedSources() {
-		made := valueMade(w.term)
+		made := valueTranslator.made(w.term)
 		of, ok := impl.ValueOf(w.text)
 		if !isTerm(made) {
 			none++
@@ -341,7 +355,6 @@ func simpleSourceMade(typ string) string {
 	return "0"
 }
 
-// TestSourcesWithoutEffects holds what SourcePure tells, and of promise 70 what it says of evaluations and translations by value.
 func TestSourcesWithoutEffects(t *testing.T) {
 	t.Parallel()
 	for _, m := range someSources() {
@@ -350,24 +363,5 @@ func TestSourcesWithoutEffects(t *testing.T) {
 		if impl.SourcePure(s) != want {
 			t.Fatalf("SourcePure(%s) = %v", s, impl.SourcePure(s))
 		}
-	}
-	pure := 0
-	for _, w := range typedSources() {
-		of, ok := impl.ValueOf(w.text)
-		if ok && impl.TermPure(of) != w.pure {
-			t.Fatalf("ValueOf(%s) = %s is without effects %v", w.text, of, impl.TermPure(of))
-		}
-		if !w.pure {
-			continue
-		}
-		pure++
-		print0, bit0, ok0 := impl.EvalValue(w.text, 0, impl.FuelMax)
-		print1, bit1, ok1 := impl.EvalValue(w.text, 1, impl.FuelMax)
-		if !ok0 || !ok1 || print0 != print1 || bit0 != 0 || bit1 != 1 {
-			t.Fatalf("EvalValue(%s) = %s, %d, %v and %s, %d, %v", w.text, print0, bit0, ok0, print1, bit1, ok1)
-		}
-	}
-	if pure < 1000 {
-		t.Errorf("just %d expressions without effects", pure)
 	}
 }
