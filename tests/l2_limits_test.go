@@ -69,20 +69,29 @@ func allOf(head string, list []string) string {
 }
 
 // computationOfBytes returns a computation of so many bytes, which are about TextMax, with parentheses within each other at most 98 times.
-func computationOfBytes(n int) string {
-	for last := 1; last <= 93; last += 2 {
-		parts := slices.Repeat([]string{nested(93, "a")}, 14)
-		parts = append(parts, nested(last, "a"))
-		missing := n - len(allOf("both", parts))
-		if missing < 0 || missing > 3*len(parts) {
-			continue
+func computationOfBytes(n int) string { return computationOfChains(n, 93) }
+
+// computationOfChains is computationOfBytes with parts that have parentheses within each other so often, which is an odd number, or less often.
+func computationOfChains(n int, nests int) string {
+	return bothOfBytes(n, nests, func(nests int) string { return nested(nests, "a") })
+}
+
+// bothOfBytes returns a computation of so many bytes, which are about TextMax, of parts that are made for an odd number of at most so many parentheses. Each part has the letter a in one name alone.
+func bothOfBytes(n int, nests int, part func(nests int) string) string {
+	for equal := 14; equal <= 17; equal++ {
+		for last := 1; last <= nests; last += 2 {
+			parts := append(slices.Repeat([]string{part(nests)}, equal), part(last))
+			missing := n - len(allOf("both", parts))
+			if missing < 0 || missing > 3*len(parts) {
+				continue
+			}
+			for i := range parts {
+				longer := min(missing, 3)
+				parts[i] = strings.Replace(parts[i], "a", "a"+strings.Repeat("0", longer), 1)
+				missing -= longer
+			}
+			return allOf("both", parts)
 		}
-		for i := range parts {
-			longer := min(missing, 3)
-			parts[i] = strings.Replace(parts[i], "a", "a"+strings.Repeat("0", longer), 1)
-			missing -= longer
-		}
-		return allOf("both", parts)
 	}
 	panic("no computation of " + strconv.Itoa(n) + " bytes")
 }

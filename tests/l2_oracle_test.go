@@ -136,25 +136,32 @@ func (m *madeTerm) replaced(name string, by *madeTerm) *madeTerm {
 	return made
 }
 
-// marked returns the term with marks that are no names, [0], [1] and so on, for the names that are bound, in the order of TermCanon.
-func (m *madeTerm) marked(next *int) *madeTerm {
+// rebound returns the term with other names for those that are bound, which are given out in the order of TermCanon. None of these is bound in the term.
+func (m *madeTerm) rebound(give func() string) *madeTerm {
 	made := &madeTerm{atom: m.atom, head: m.head, parts: slices.Clone(m.parts)}
 	for i, p := range made.parts {
 		if p.bound == "" {
 			continue
 		}
-		mark := "[" + strconv.Itoa(*next) + "]"
-		*next++
+		name := give()
 		last := &made.parts[len(made.parts)-1]
-		last.kid = last.kid.replaced(p.bound, madeAtom(mark))
-		made.parts[i].bound = mark
+		last.kid = last.kid.replaced(p.bound, madeAtom(name))
+		made.parts[i].bound = name
 	}
 	for i, p := range made.parts {
 		if p.kid != nil {
-			made.parts[i].kid = p.kid.marked(next)
+			made.parts[i].kid = p.kid.rebound(give)
 		}
 	}
 	return made
+}
+
+// marked returns the term with marks that are no names, [0], [1] and so on, for the names that are bound, in the order of TermCanon.
+func (m *madeTerm) marked(next *int) *madeTerm {
+	return m.rebound(func() string {
+		*next++
+		return "[" + strconv.Itoa(*next-1) + "]"
+	})
 }
 
 // markedText is equal for two terms exactly if they are alike.

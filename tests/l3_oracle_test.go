@@ -186,6 +186,8 @@ type typedDice struct {
 	slips int
 	// known tells that all types have counts that are known.
 	known bool
+	// redexes is how seldom a term is made that a rule of chapter 9 fits, one out of so many; never if it is 0.
+	redexes int
 }
 
 func newTypedDice(seed uint64, slips int) typedDice {
@@ -221,6 +223,9 @@ func (d typedDice) env(n int) madeEnv {
 func (d typedDice) value(e madeEnv, typ string, depth int) *madeTerm {
 	if d.slip() {
 		typ = d.valueType()
+	}
+	if d.wantsRedex(depth) && typesByText()[typ].head == "u" {
+		return d.redexOfValue(e, typ, depth)
 	}
 	var fitting []string
 	for _, name := range e.names {
@@ -263,6 +268,9 @@ func madeOf(head string, parts ...any) *madeTerm {
 func (d typedDice) computation(e madeEnv, typ string, depth int) *madeTerm {
 	if d.slip() {
 		typ = d.computationType()
+	}
+	if d.wantsRedex(depth) {
+		return d.redex(e, typ, depth)
 	}
 	if depth <= 0 || d.IntN(4) == 0 {
 		return d.made(e, typ, depth)

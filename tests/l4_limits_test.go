@@ -1,7 +1,6 @@
 package tests
 
 import (
-	"fmt"
 	"slices"
 	"strings"
 	"testing"
@@ -25,20 +24,7 @@ func TestNumbersOfTheDocument(t *testing.T) {
 
 // closedOfBytes returns a closed computation of so many bytes, which are about TextMax, with parentheses within each other at most 83 times.
 func closedOfBytes(n int) string {
-	for last := 1; last <= 77; last += 2 {
-		parts := append(slices.Repeat([]string{"(get a " + nested(77, "0") + ")"}, 17), "(get a "+nested(last, "0")+")")
-		missing := n - len(allOf("both", parts))
-		if missing < 0 || missing > 3*len(parts) {
-			continue
-		}
-		for i := range parts {
-			longer := min(missing, 3)
-			parts[i] = strings.Replace(parts[i], "a", "a"+strings.Repeat("0", longer), 1)
-			missing -= longer
-		}
-		return allOf("both", parts)
-	}
-	panic(fmt.Sprint("no closed computation of ", n, " bytes"))
+	return bothOfBytes(n, 77, func(nests int) string { return "(get a " + nested(nests, "0") + ")" })
 }
 
 // applied returns a function applied to itself, given its body with what goes on with it again: (app (force x) x).
