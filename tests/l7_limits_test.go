@@ -206,23 +206,27 @@ func number(name string) int {
 	return n
 }
 
-// TestFuelsAtTheirLimit has a function that is applied 13 times and does 379 evaluations each time, as each of 6 functions applies the one ahead of it twice.
+// costlyByValue returns an expression that comes to 0 and takes so many evaluations by value, at least 4975: it has a function that is applied 13 times and does 379 evaluations each time, as each of 6 functions applies the one ahead of it twice.
+func costlyByValue(cost int) string {
+	// 3 for each of 7 functions, 2 and 379 for each time that the last one is applied, and 1 for each put and 0
+	puts := cost - (3*7 + 13*(2+379) + 1)
+	return "(app (lam f (> b b) " + nest(6, twice, nest(puts, "(put ...)", nest(13, "(app f ...)", "0"))) + ") (lam x b x))"
+}
+
+// These bind a function that applies the one ahead of it twice or three times.
+const (
+	twice  = "(app (lam f (> b b) ...) (lam x b (app f (app f x))))"
+	thrice = "(app (lam f (> b b) ...) (lam x b (app f (app f (app f x)))))"
+)
+
 func TestFuelsAtTheirLimit(t *testing.T) {
-	const twice = "(app (lam f (> b b) ...) (lam x b (app f (app f x))))"
-	calls := nest(13, "(app f ...)", "0")
 	for more := -1; more <= 2; more++ {
-		// 3 for each of 7 functions, 2 and 379 for each time that the last one is applied, and 1 for each put and 0
-		cost := 3*7 + 13*(2+379) + (25 + more) + 1
-		s := "(app (lam f (> b b) " + nest(6, twice, nest(25+more, "(put ...)", calls)) + ") (lam x b x))"
-		if cost != impl.FuelMax+more {
-			t.Errorf("%s takes %d", s, cost)
-		}
+		cost := impl.FuelMax + more
 		for bit := range 2 {
-			byValue.wantEnd(t, s, bit, sourceEnd{"0", 0, cost})
+			byValue.wantEnd(t, costlyByValue(cost), bit, sourceEnd{"0", 0, cost})
 		}
 	}
 	// These take thousands of times more.
-	thrice := strings.Replace(twice, "(app f x)", "(app f (app f x))", 1)
 	for _, s := range []string{nest(8, thrice, "(app f 0)"), nest(8, thrice, "(app f (fail b))"), nest(9, twice, "(app f (app f (app f 0)))")} {
 		s = "(app (lam f (> b b) " + s + ") (lam x b x))"
 		if typ, ok := impl.SourceType(s); !ok || typ != "b" {

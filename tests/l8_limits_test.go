@@ -145,21 +145,22 @@ func TestManyNewNames(t *testing.T) {
 	}
 }
 
-// TestNameFuelsAtTheirLimit has a function that is applied 29 times and does 172 evaluations each time, as each of 4 functions applies the one ahead of it twice.
-func TestNameFuelsAtTheirLimit(t *testing.T) {
-	const twice = "(app (lam f (> b b) ...) (lam x b (app f (app f x))))"
+// costlyByName returns an expression that comes to 0 and takes so many evaluations by name, at least 4999: it has a function that is applied 29 times and does 172 evaluations each time, as each of 4 functions applies the one ahead of it twice.
+func costlyByName(cost int) string {
 	// The first function takes 3 for app, f and lam, 3 for put, and 1 for x beside its argument. Each further one takes 3, twice that of the one ahead of it, and 1 for x.
 	each := 3 + 3 + 1
 	for range 4 {
 		each = 3 + 2*each + 1
 	}
-	for more := range 4 {
-		s := "(app (lam f (> b b) " + nest(4, twice, nest(more, "(put ...)", nest(29, "(app f ...)", "0"))) + ") (lam x b (put (put (put x)))))"
-		// 2 for each of 5 functions, and 1 for each put and 0
-		cost := 2*5 + 29*each + more + 1
-		if cost != impl.FuelMax-1+more {
-			t.Errorf("%s takes %d", s, cost)
-		}
+	// 2 for each of 5 functions, and 1 for each put and 0
+	puts := cost - (2*5 + 29*each + 1)
+	return "(app (lam f (> b b) " + nest(4, twice, nest(puts, "(put ...)", nest(29, "(app f ...)", "0"))) + ") (lam x b (put (put (put x)))))"
+}
+
+func TestNameFuelsAtTheirLimit(t *testing.T) {
+	for more := -1; more <= 2; more++ {
+		cost := impl.FuelMax + more
+		s := costlyByName(cost)
 		for bit := range 2 {
 			byName.wantEnd(t, s, bit, sourceEnd{"(return 0)", 0, cost})
 			if agrees := impl.NameAgrees(s, bit); agrees != (cost <= impl.FuelMax) {
@@ -171,7 +172,6 @@ func TestNameFuelsAtTheirLimit(t *testing.T) {
 
 // TestAgreementBeyondTheFuel has expressions for which the fuel does not suffice by value or by name, as they do thousands of times more.
 func TestAgreementBeyondTheFuel(t *testing.T) {
-	const thrice = "(app (lam f (> b b) ...) (lam x b (app f (app f (app f x)))))"
 	around := func(s string) string {
 		return "(app (lam f (> b b) " + nest(7, thrice, s) + ") (lam x b x))"
 	}
@@ -192,7 +192,6 @@ func TestAgreementBeyondTheFuel(t *testing.T) {
 
 // TestAgreementAtTheFuelByValue has an argument that is used by value alone, where a function is applied 13 times and does 379 evaluations each time.
 func TestAgreementAtTheFuelByValue(t *testing.T) {
-	const twice = "(app (lam f (> b b) ...) (lam x b (app f (app f x))))"
 	for more := -1; more <= 1; more++ {
 		argument := nest(22+more, "(put ...)", nest(13, "(app f ...)", "0"))
 		s := "(app (lam f (> b b) " + nest(6, twice, "(app (lam y b 0) "+argument+")") + ") (lam x b x))"
