@@ -161,7 +161,7 @@ func TestTermsWithAWrongWord(t *testing.T) {
 
 // wordsOf returns the atoms and parentheses of a text, and textOfWords lays them out again.
 func wordsOf(s string) []string {
-	return strings.Fields(strings.NewReplacer("(", " ( ", ")", " ) ").Replace(s))
+	return strings.Fields(strings.ReplaceAll(strings.ReplaceAll(s, "(", " ( "), ")", " ) "))
 }
 
 func textOfWords(words []string) string {

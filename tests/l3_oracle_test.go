@@ -70,8 +70,10 @@ func (v typeVars) match(rule, typ string) bool {
 
 // fill returns the type that a rule writes, or "" if it is none.
 func (v typeVars) fill(rule string) string {
-	text := strings.NewReplacer("A", v['A'], "B", v['B'], "C", v['C'], "D", v['D']).Replace(rule)
-	return typesByText()[text].text
+	for letter, typ := range v {
+		rule = strings.ReplaceAll(rule, string(rune(letter)), typ)
+	}
+	return typesByText()[rule].text
 }
 
 // A madeEnv is an environment, with any number of names.

@@ -20,7 +20,7 @@ type templateReader struct {
 
 // madeFrom returns the term that a template is.
 func madeFrom(template string, letters standsFor) *madeTerm {
-	r := templateReader{strings.Fields(strings.NewReplacer("(", " ( ", ")", " ) ").Replace(template)), letters}
+	r := templateReader{wordsOf(template), letters}
 	m := r.term()
 	if len(r.words) > 0 {
 		panic("more than a term: " + template)

@@ -113,7 +113,7 @@ func sourceTypeIn(m *madeTerm, e madeEnv) string {
 			return ""
 		}
 	}
-	whole := strings.NewReplacer("S", vars["S"], "T", vars["T"]).Replace(rule.whole)
+	whole := strings.ReplaceAll(strings.ReplaceAll(rule.whole, "S", vars["S"]), "T", vars["T"])
 	return sourceTypesByText()[whole].text
 }
 
